@@ -1,0 +1,301 @@
+package tests
+
+import (
+	"fmt"
+	"go/ast"
+	"go/parser"
+	"go/token"
+	"math"
+	"reflect"
+	"strings"
+	"testing"
+
+	"loop.example/g01284/impl"
+)
+
+// landed has the files of the chapters whose promises have landed.
+func landed() []string { return []string{"l01_numbers.go"} }
+
+// functions has each function of these files with its name.
+func functions() map[string]any {
+	return map[string]any{
+		"SameNumber": impl.SameNumber, "IsFinite": impl.IsFinite, "BitsOf": impl.BitsOf, "FromBits": impl.FromBits,
+		"NarrowNumber": impl.NarrowNumber, "IsSubnormal": impl.IsSubnormal, "FlushNumber": impl.FlushNumber,
+		"SameComplex": impl.SameComplex, "IsFiniteComplex": impl.IsFiniteComplex, "NarrowComplex": impl.NarrowComplex,
+		"MulComplex": impl.MulComplex, "ScaleComplex": impl.ScaleComplex, "ConjugateOf": impl.ConjugateOf,
+		"PowerOf": impl.PowerOf, "LongOf": impl.LongOf, "QuotientOf": impl.QuotientOf, "PhasorOf": impl.PhasorOf,
+		"AngleOf": impl.AngleOf, "SineTurns": impl.SineTurns, "AngleTurns": impl.AngleTurns, "TenthsOf": impl.TenthsOf,
+		"RootNumber": impl.RootNumber, "LogNumber": impl.LogNumber, "ExpNumber": impl.ExpNumber,
+		"SumNumbers": impl.SumNumbers, "DotNumbers": impl.DotNumbers, "SumComplex": impl.SumComplex,
+		"DotComplex": impl.DotComplex, "DotConjugate": impl.DotConjugate, "PowersOf": impl.PowersOf,
+		"AddVectors": impl.AddVectors, "LessVectors": impl.LessVectors, "ScaleVector": impl.ScaleVector,
+		"InnerOf": impl.InnerOf, "CrossOf": impl.CrossOf, "SizeOfVector": impl.SizeOfVector,
+		"BetweenVectors": impl.BetweenVectors, "SameVector": impl.SameVector, "VectorText": impl.VectorText,
+		"ReadVector": impl.ReadVector, "NumbersText": impl.NumbersText, "ReadNumbers": impl.ReadNumbers,
+		"ComplexText": impl.ComplexText, "ReadComplex": impl.ReadComplex, "IsName": impl.IsName,
+		"Decimal": impl.Decimal, "ReadDecimal": impl.ReadDecimal, "ListText": impl.ListText,
+		"ReadList": impl.ReadList, "CheckOf": impl.CheckOf,
+	}
+}
+
+func TestEveryFunctionIsCalled(t *testing.T) {
+	known := functions()
+	count := 0
+	for _, name := range landed() {
+		file, err := parser.ParseFile(token.NewFileSet(), "../impl/"+name, nil, parser.SkipObjectResolution)
+		if err != nil {
+			t.Fatal(err)
+		}
+		for _, d := range file.Decls {
+			f, ok := d.(*ast.FuncDecl)
+			if !ok || f.Recv != nil || !f.Name.IsExported() {
+				continue
+			}
+			count++
+			if known[f.Name.Name] == nil {
+				t.Errorf("no test of promise 1 calls %s", f.Name.Name)
+			}
+		}
+	}
+	want(t, "functions", len(known), count)
+}
+
+func oddNumbers() []float32 {
+	var list []float32
+	for _, bits := range []uint32{
+		plusZero, leastBits, subnormal, leastNorm, 0x3dcccccd, 0x3e800000, 0x3f400000, oneBits, 0x3fc00000, 0x40200000,
+		0x43480000, 0x43480001, 0x4b000000, 0x59800000, mostBits, infBits, nanBits,
+	} {
+		list = append(list, number(bits), number(bits|minusZero))
+	}
+	return list
+}
+
+func oddWide() []float64 {
+	list := []float64{1e-320, -1e-320, 1e300, -1e300, 0.6, -0.1, 1 + 0x1p-24, 0x1p52 - 0.5, 1e-40}
+	for _, x := range oddNumbers() {
+		list = append(list, float64(x))
+	}
+	return list
+}
+
+func oddComplex() []complex64 {
+	parts := []float32{0, number(minusZero), 1, -2.5, number(leastBits), number(mostBits), number(lessInf), number(nanBits)}
+	var list []complex64
+	for _, a := range parts {
+		for _, b := range parts {
+			list = append(list, complex(a, b))
+		}
+	}
+	return list
+}
+
+func oddVectors() []impl.Vector {
+	list := oddNumbers()
+	var out []impl.Vector
+	for i, x := range list {
+		if i%3 == 0 {
+			out = append(out, vectorOf(x, list[(i+7)%len(list)], list[(i+16)%len(list)]))
+		}
+	}
+	return append(out, vectorOf(3, 4, 0), vectorOf(1e30, -1e30, 1))
+}
+
+func oddIntegers() []int64 {
+	return []int64{
+		math.MinInt64, -impl.MaxValue - 1, -impl.MaxValue, -1, 0, 1, 255, impl.CheckSize - 1, impl.CheckSize,
+		nanBits, nanBits + 1, 4294967295, 4294967296, impl.MaxValue, impl.MaxValue + 1, math.MaxInt64,
+	}
+}
+
+func oddTexts() []string {
+	list := []string{
+		"none", "a", "moon", "abcdefgh", "abcdefghi", "7", "-12", "1,2", "-0", "1000000000000000", "7fc00000", "00000001,80000000",
+		"3f800000,00000000,c0000000", "3f80000000000000", "7fc00000ff800000,0000000080000000", strings.Repeat(",", 300),
+		strings.Repeat("3f800000,", 255) + "3f800000", strings.Repeat("3f800000,", 256) + "3f800000", strings.Repeat("1,", 64) + "1",
+	}
+	return append(append(list, noNumbers()...), noDecimals()...)
+}
+
+// oddValues has arguments of each type that a function takes.
+func oddValues() map[reflect.Type][]reflect.Value {
+	odd := map[reflect.Type][]reflect.Value{}
+	addValues(odd, oddNumbers())
+	addValues(odd, oddWide())
+	addValues(odd, oddComplex())
+	addValues(odd, []complex128{0, complex(1e300, -1e-320), complex(0.1, math.Copysign(0, -1)), complex(math.NaN(), math.Inf(-1))})
+	addValues(odd, oddVectors())
+	addValues(odd, oddIntegers())
+	addValues(odd, oddTexts())
+	addValues(odd, [][]float32{nil, {}, {number(minusZero)}, {1, 2, 3}, oddNumbers(), repeated(float32(0.1), 256), repeated(float32(1), 257)})
+	addValues(odd, [][]complex64{nil, {}, {complex(1, number(minusZero))}, {1, 2, 3}, oddComplex(), repeated(complex64(complex(0.1, -3)), 256), repeated(complex64(1), 257)})
+	addValues(odd, [][]int64{nil, {}, {0}, {-3, 2, 2}, oddIntegers(), {impl.MaxValue, -impl.MaxValue}, repeated(int64(7), 64), repeated(int64(7), 65)})
+	return odd
+}
+
+func addValues[T any](odd map[reflect.Type][]reflect.Value, list []T) {
+	for _, x := range list {
+		t := reflect.TypeOf(x)
+		odd[t] = append(odd[t], reflect.ValueOf(x))
+	}
+}
+
+// argumentsOf returns all choices of one odd value for each parameter.
+func argumentsOf(f reflect.Type, odd map[reflect.Type][]reflect.Value) [][]reflect.Value {
+	choices := [][]reflect.Value{nil}
+	for i := range f.NumIn() {
+		var longer [][]reflect.Value
+		for _, c := range choices {
+			for _, v := range odd[f.In(i)] {
+				longer = append(longer, append(c[:len(c):len(c)], v))
+			}
+		}
+		choices = longer
+	}
+	return choices
+}
+
+// textOf tells a value to the last bit, where all not-a-numbers are one, and
+// a nil slice is an empty one.
+func textOf(v reflect.Value) string {
+	switch v.Kind() {
+	case reflect.Float32:
+		return fmt.Sprintf("%08x", bitsOf(float32(v.Float())))
+	case reflect.Float64:
+		if math.IsNaN(v.Float()) {
+			return "nan"
+		}
+		return fmt.Sprintf("%016x", math.Float64bits(v.Float()))
+	case reflect.Complex64, reflect.Complex128:
+		return textOf(reflect.ValueOf(real(v.Complex()))) + textOf(reflect.ValueOf(imag(v.Complex())))
+	case reflect.Slice:
+		var parts []string
+		for i := range v.Len() {
+			parts = append(parts, textOf(v.Index(i)))
+		}
+		return "[" + strings.Join(parts, " ") + "]"
+	case reflect.Struct:
+		var parts []string
+		for i := range v.NumField() {
+			parts = append(parts, textOf(v.Field(i)))
+		}
+		return "{" + strings.Join(parts, " ") + "}"
+	}
+	return fmt.Sprintf("%#v", v.Interface())
+}
+
+func textsOf(list []reflect.Value) string {
+	var parts []string
+	for _, v := range list {
+		parts = append(parts, textOf(v))
+	}
+	return strings.Join(parts, "; ")
+}
+
+// copyOf returns an equal value: its slices have the told unused capacity,
+// and its not-a-numbers the told bits.
+func copyOf(v reflect.Value, spare int, nan uint32) reflect.Value {
+	out := reflect.New(v.Type()).Elem()
+	out.Set(v)
+	part := float64(number(nan))
+	switch v.Kind() {
+	case reflect.Float32, reflect.Float64:
+		if math.IsNaN(v.Float()) {
+			out.SetFloat(part)
+		}
+	case reflect.Complex64, reflect.Complex128:
+		a, b := real(v.Complex()), imag(v.Complex())
+		if math.IsNaN(a) {
+			a = part
+		}
+		if math.IsNaN(b) {
+			b = part
+		}
+		out.SetComplex(complex(a, b))
+	case reflect.Slice:
+		if v.IsNil() && spare == 0 {
+			return out
+		}
+		out.Set(reflect.MakeSlice(v.Type(), v.Len(), v.Len()+spare))
+		for i := range v.Len() {
+			out.Index(i).Set(copyOf(v.Index(i), spare, nan))
+		}
+	case reflect.Struct:
+		for i := range v.NumField() {
+			out.Field(i).Set(copyOf(v.Field(i), spare, nan))
+		}
+	}
+	return out
+}
+
+func copiesOf(list []reflect.Value, spare int, nan uint32) []reflect.Value {
+	out := make([]reflect.Value, len(list))
+	for i, v := range list {
+		out[i] = copyOf(v, spare, nan)
+	}
+	return out
+}
+
+// wholeOf shows the unused capacity of slices as well.
+func wholeOf(list []reflect.Value) string {
+	out := make([]reflect.Value, len(list))
+	for i, v := range list {
+		out[i] = v
+		if v.Kind() == reflect.Slice {
+			out[i] = v.Slice(0, v.Cap())
+		}
+	}
+	return textsOf(out)
+}
+
+// overwrite puts zeros in place of all that the returned slices hold.
+func overwrite(results []reflect.Value) {
+	for _, v := range results {
+		if v.Kind() == reflect.Slice {
+			whole := v.Slice(0, v.Cap())
+			for i := range whole.Len() {
+				whole.Index(i).SetZero()
+			}
+		}
+	}
+}
+
+func failed(name string, results []reflect.Value) bool {
+	last := results[len(results)-1]
+	return len(results) > 1 && last.Kind() == reflect.Bool && !last.Bool()
+}
+
+func checkCall(t *testing.T, name string, f reflect.Value, arguments []reflect.Value) {
+	t.Helper()
+	first := copiesOf(arguments, 3, nanBits)
+	second := copiesOf(arguments, 0, 0xffc12345)
+	before, what := wholeOf(first), name+" of "+textsOf(arguments)
+	if len(what) > 300 {
+		what = what[:300] + " .."
+	}
+	results := f.Call(first)
+	told := textsOf(results)
+	if failed(name, results) {
+		for _, r := range results[:len(results)-1] {
+			want(t, "what fails is zero: "+what, textOf(r), textOf(reflect.Zero(r.Type())))
+		}
+	}
+	overwrite(results)
+	want(t, "arguments stay as they are: "+what, wholeOf(first), before)
+	want(t, "equal results for equal arguments: "+what, textsOf(f.Call(second)), told)
+	want(t, "equal results in the second call: "+what, textsOf(f.Call(first)), told)
+}
+
+func TestFunctionsArePureAndReturn(t *testing.T) {
+	odd := oddValues()
+	for name, f := range functions() {
+		v := reflect.ValueOf(f)
+		choices := argumentsOf(v.Type(), odd)
+		if len(choices) == 0 {
+			t.Errorf("no arguments for %s", name)
+		}
+		for _, arguments := range choices {
+			checkCall(t, name, v, arguments)
+		}
+	}
+}
