@@ -50,6 +50,18 @@ func IsFinite(x float32) bool { return isFiniteWide(float64(x)) }
 
 func isFiniteWide(x float64) bool { return !math.IsNaN(x) && !math.IsInf(x, 0) }
 
+func isAtLeastZero(x float32) bool { return x >= 0 && IsFinite(x) }
+
+func isAboveZero(x float32) bool { return x > 0 && IsFinite(x) }
+
+// finiteNumber fails where a function would return a number that is not finite.
+func finiteNumber(x float32) (float32, bool) {
+	if !IsFinite(x) {
+		return 0, false
+	}
+	return x, true
+}
+
 // BitsOf returns the bits of a number.
 func BitsOf(x float32) int64 {
 	if math.IsNaN(float64(x)) {
@@ -406,6 +418,18 @@ func SameVector(a, b Vector) bool { return bitsOfVector(a) == bitsOfVector(b) }
 func bitsOfVector(v Vector) vectorBits {
 	return vectorBits{X: BitsOf(v.X), Y: BitsOf(v.Y), Z: BitsOf(v.Z)}
 }
+
+func isFiniteVector(v Vector) bool { return IsFinite(v.X) && IsFinite(v.Y) && IsFinite(v.Z) }
+
+// finiteVector fails where a function would return a number that is not finite.
+func finiteVector(v Vector) (Vector, bool) {
+	if !isFiniteVector(v) {
+		return Vector{}, false
+	}
+	return v, true
+}
+
+func oppositeVector(v Vector) Vector { return Vector{X: -v.X, Y: -v.Y, Z: -v.Z} }
 
 // VectorText returns the text of a vector.
 func VectorText(v Vector) string {
