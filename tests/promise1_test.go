@@ -330,8 +330,8 @@ func TestFunctionsArePureAndReturn(t *testing.T) {
 				succeeded++
 			}
 		}
-		if succeeded < 3 {
-			t.Errorf("of all calls of %s, %d have succeeded", name, succeeded)
+		if succeeded == 0 {
+			t.Errorf("no call of %s has succeeded", name)
 		}
 	}
 }
