@@ -40,6 +40,7 @@ func TestCircleBodiesFail(t *testing.T) {
 		want(t, fmt.Sprint("radius ", x), bodiesTold(impl.PolygonBodies(3, x, 5)), "fail")
 		want(t, fmt.Sprint("mass of all ", x), bodiesTold(impl.PolygonBodies(3, 5, x)), "fail")
 	}
+	want(t, "the radius -1, and no mass", bodiesTold(impl.PolygonBodies(3, -1, 0)), "fail")
 	for _, zero := range []float32{0, number(minusZero)} {
 		want(t, "0 apart", bodiesTold(impl.CircleBodies(5, 5, zero)), "fail")
 		want(t, "the radius 0", bodiesTold(impl.PolygonBodies(3, zero, 5)), "fail")
