@@ -17,7 +17,7 @@ func turningPair() []impl.Body {
 func TestSumsOverBodies(t *testing.T) {
 	pair := turningPair()
 	want(t, "mass", numberTold(impl.MassOfBodies(pair)), numberText(4))
-	want(t, "centre", centreTold(impl.CentreOfBodies(pair)), vectorText(vectorOf(0, 0, 0))+" "+vectorText(vectorOf(0, 1, 0.25)))
+	want(t, "centre", twoVectorsTold(impl.CentreOfBodies(pair)), vectorText(vectorOf(0, 0, 0))+" "+vectorText(vectorOf(0, 1, 0.25)))
 	want(t, "momentum", vectorTold(impl.MomentumOfBodies(pair)), vectorText(vectorOf(0, 4, 1)))
 	want(t, "turning", vectorTold(impl.TurningOfBodies(pair)), vectorText(vectorOf(0, 3, 12)))
 	want(t, "energy", numberTold(impl.EnergyOfBodies(pair, 0)), numberText(6+2.5-0.75))
@@ -30,7 +30,7 @@ func TestSumsOverNoBody(t *testing.T) {
 	want(t, "momentum", vectorTold(impl.MomentumOfBodies(nil)), zero)
 	want(t, "turning", vectorTold(impl.TurningOfBodies(nil)), zero)
 	want(t, "energy", numberTold(impl.EnergyOfBodies(nil, 0)), numberText(0))
-	want(t, "centre", centreTold(impl.CentreOfBodies(nil)), "fail")
+	want(t, "centre", twoVectorsTold(impl.CentreOfBodies(nil)), "fail")
 	want(t, "rest", bodiesTold(impl.RestBodies(nil)), "fail")
 }
 
@@ -41,10 +41,10 @@ func TestSumsOverBodiesWithoutMass(t *testing.T) {
 	want(t, "momentum", vectorTold(impl.MomentumOfBodies(light)), zero)
 	want(t, "turning", vectorTold(impl.TurningOfBodies(light)), zero)
 	want(t, "energy", numberTold(impl.EnergyOfBodies(light, 0)), numberText(0))
-	want(t, "centre", centreTold(impl.CentreOfBodies(light)), "fail")
+	want(t, "centre", twoVectorsTold(impl.CentreOfBodies(light)), "fail")
 	want(t, "rest", bodiesTold(impl.RestBodies(light)), "fail")
 	heavy := append(light, massAt(2, 4, 6, 0.5))
-	want(t, "the centre is where the mass is", centreTold(impl.CentreOfBodies(heavy)), vectorText(vectorOf(2, 4, 6))+" "+zero)
+	want(t, "the centre is where the mass is", twoVectorsTold(impl.CentreOfBodies(heavy)), vectorText(vectorOf(2, 4, 6))+" "+zero)
 }
 
 func TestSumsThatAreNotFinite(t *testing.T) {
@@ -53,15 +53,15 @@ func TestSumsThatAreNotFinite(t *testing.T) {
 	want(t, "the greatest mass", numberTold(impl.MassOfBodies(heavy[:1])), numberText(most))
 	want(t, "mass", numberTold(impl.MassOfBodies(heavy)), "fail")
 	resting := []impl.Body{massAt(0, 0, 0, most), massAt(0, 0, 0, most)}
-	want(t, "centre of an infinite mass", centreTold(impl.CentreOfBodies(resting)), "fail")
+	want(t, "centre of an infinite mass", twoVectorsTold(impl.CentreOfBodies(resting)), "fail")
 	want(t, "rest of an infinite mass", bodiesTold(impl.RestBodies(resting)), "fail")
-	want(t, "centre of a subnormal mass", centreTold(impl.CentreOfBodies([]impl.Body{massAt(1, 1, 1, small)})), "fail")
-	want(t, "centre of a small mass", centreTold(impl.CentreOfBodies([]impl.Body{massAt(1, 2, -1, 0x1p-127)})),
+	want(t, "centre of a subnormal mass", twoVectorsTold(impl.CentreOfBodies([]impl.Body{massAt(1, 1, 1, small)})), "fail")
+	want(t, "centre of a small mass", twoVectorsTold(impl.CentreOfBodies([]impl.Body{massAt(1, 2, -1, 0x1p-127)})),
 		vectorText(vectorOf(1, 2, -1))+" "+vectorText(vectorOf(0, 0, 0)))
 	far := []impl.Body{massAt(0, 0, 1e38, 10)}
-	want(t, "centre that is too far between", centreTold(impl.CentreOfBodies(far)), "fail")
+	want(t, "centre that is too far between", twoVectorsTold(impl.CentreOfBodies(far)), "fail")
 	fast := []impl.Body{bodyOf(vectorOf(0, 0, 0), vectorOf(0, -1e38, 0), 10)}
-	want(t, "centre that is too fast between", centreTold(impl.CentreOfBodies(fast)), "fail")
+	want(t, "centre that is too fast between", twoVectorsTold(impl.CentreOfBodies(fast)), "fail")
 	want(t, "momentum", vectorTold(impl.MomentumOfBodies(fast)), "fail")
 	want(t, "energy", numberTold(impl.EnergyOfBodies(fast, 0)), "fail")
 	want(t, "turning", vectorTold(impl.TurningOfBodies([]impl.Body{bodyOf(vectorOf(1e20, 0, 0), vectorOf(0, 1e20, 0), 0)})), "fail")
@@ -199,7 +199,7 @@ func TestBoundTo(t *testing.T) {
 func TestSumsFailForWrongArguments(t *testing.T) {
 	for i, list := range wrongBodies() {
 		for what, told := range map[string]string{
-			"mass": numberTold(impl.MassOfBodies(list)), "centre": centreTold(impl.CentreOfBodies(list)),
+			"mass": numberTold(impl.MassOfBodies(list)), "centre": twoVectorsTold(impl.CentreOfBodies(list)),
 			"rest": bodiesTold(impl.RestBodies(list)), "momentum": vectorTold(impl.MomentumOfBodies(list)),
 			"turning": vectorTold(impl.TurningOfBodies(list)), "energy": numberTold(impl.EnergyOfBodies(list, 0)),
 			"nearest": nearestTold(impl.NearestBodies(list)), "pass": passTold(impl.NearestPass(list, 0, 0, 0)),

@@ -78,7 +78,7 @@ func halvedTold(list []impl.Body, parts int64, ok bool) string {
 	return toldOr(fmt.Sprintf("%s %d", bodiesText(list), parts), ok)
 }
 
-func centreTold(at, speed impl.Vector, ok bool) string {
+func twoVectorsTold(at, speed impl.Vector, ok bool) string {
 	return toldOr(vectorText(at)+" "+vectorText(speed), ok)
 }
 
@@ -226,7 +226,7 @@ func TestTablesOfWhatIsKept(t *testing.T) {
 		"3ff33332",
 		"48b4aa00",
 	)
-	wantTable(t, "CentreOfBodies", func(list []impl.Body) string { return centreTold(impl.CentreOfBodies(list)) },
+	wantTable(t, "CentreOfBodies", func(list []impl.Body) string { return twoVectorsTold(impl.CentreOfBodies(list)) },
 		"bd924925,3e8af8b0,be03a83c 3ea0ea0f,bec57c59,3f000001",
 		"3ee0b60b,3f8a4fa5,3ee7d27e 3ec9f4a0,3dddddde,3e333334",
 		"3f308159,3ea712dc,bd6d230b bd8c2057,3e8158ee,bbac76a0",

@@ -14,7 +14,7 @@ import (
 )
 
 // landed has the files of the chapters whose promises have landed.
-func landed() []string { return []string{"l01_numbers.go", "l02_bodies.go"} }
+func landed() []string { return []string{"l01_numbers.go", "l02_bodies.go", "l03_orbits.go"} }
 
 // functions has each function of these files with its name.
 func functions() map[string]any {
@@ -44,6 +44,14 @@ func functions() map[string]any {
 		"TurningOfBodies": impl.TurningOfBodies, "EnergyOfBodies": impl.EnergyOfBodies, "NearestBodies": impl.NearestBodies,
 		"NearestPass": impl.NearestPass, "CircleBodies": impl.CircleBodies, "PolygonBodies": impl.PolygonBodies,
 		"FourthBodies": impl.FourthBodies, "BoundTo": impl.BoundTo,
+
+		"ValidOrbit": impl.ValidOrbit, "SameOrbit": impl.SameOrbit, "CircleOrbit": impl.CircleOrbit, "SwingOf": impl.SwingOf,
+		"PhaseOfSwing": impl.PhaseOfSwing, "LeanOf": impl.LeanOf, "PhaseOfLean": impl.PhaseOfLean, "TrueTurn": impl.TrueTurn,
+		"PlaneOf": impl.PlaneOf, "StateOf": impl.StateOf, "OrbitOf": impl.OrbitOf, "RateOf": impl.RateOf,
+		"PeriodOf": impl.PeriodOf, "LaterOrbit": impl.LaterOrbit, "NearOf": impl.NearOf, "FarOf": impl.FarOf,
+		"BesideOf": impl.BesideOf, "SpeedAt": impl.SpeedAt, "EnergyOfOrbit": impl.EnergyOfOrbit,
+		"TurningOfOrbit": impl.TurningOfOrbit, "PlacesOf": impl.PlacesOf, "TiltBetween": impl.TiltBetween,
+		"NearestOrbits": impl.NearestOrbits,
 	}
 }
 
@@ -140,7 +148,18 @@ func oddValues() map[reflect.Type][]reflect.Value {
 	addValues(odd, [][]complex64{nil, {}, {complex(1, number(minusZero))}, {1, 2, 3}, oddComplex(), repeated(complex64(complex(0.1, -3)), 256), repeated(complex64(1), 257)})
 	addValues(odd, [][]int64{nil, {}, {0}, {-3, 2, 2}, oddIntegers(), {impl.MaxValue, -impl.MaxValue}, repeated(int64(7), 64), repeated(int64(7), 65)})
 	addValues(odd, oddBodies())
+	addValues(odd, oddOrbits())
 	return odd
+}
+
+// oddOrbits has few that are none.
+func oddOrbits() []impl.Orbit {
+	nan, less, most := number(nanBits), number(minusZero), number(mostBits)
+	return append(orbits(),
+		impl.Orbit{}, impl.Orbit{Long: nan, Round: nan, Tilt: nan, Node: nan, Peri: nan, Phase: nan}, impl.Orbit{Long: less, Phase: nan},
+		impl.Orbit{Long: most, Round: most, Tilt: most, Node: most, Peri: most, Phase: most}, impl.Orbit{Long: -most, Round: most, Phase: 16},
+		impl.Orbit{Long: number(infBits)}, impl.Orbit{Long: 1, Tilt: -1}, impl.Orbit{Long: 1, Phase: 1}, impl.Orbit{Long: number(lessInf), Round: 2},
+	)
 }
 
 // oddBodies has few lists that are none of bodies, so that most calls of the
