@@ -14,7 +14,9 @@ import (
 )
 
 // landed has the files of the chapters whose promises have landed.
-func landed() []string { return []string{"l01_numbers.go", "l02_bodies.go", "l03_orbits.go"} }
+func landed() []string {
+	return []string{"l01_numbers.go", "l02_bodies.go", "l03_orbits.go", "l04_frames.go"}
+}
 
 // functions has each function of these files with its name.
 func functions() map[string]any {
@@ -52,6 +54,13 @@ func functions() map[string]any {
 		"BesideOf": impl.BesideOf, "SpeedAt": impl.SpeedAt, "EnergyOfOrbit": impl.EnergyOfOrbit,
 		"TurningOfOrbit": impl.TurningOfOrbit, "PlacesOf": impl.PlacesOf, "TiltBetween": impl.TiltBetween,
 		"NearestOrbits": impl.NearestOrbits,
+
+		"IsShare": impl.IsShare, "ValidShip": impl.ValidShip, "SameShip": impl.SameShip, "MassesAt": impl.MassesAt,
+		"PotentialAt": impl.PotentialAt, "SlopeAt": impl.SlopeAt, "BendsAt": impl.BendsAt, "PushOn": impl.PushOn,
+		"ConstantOf": impl.ConstantOf, "SpeedFor": impl.SpeedFor, "PointsOf": impl.PointsOf, "GatesOf": impl.GatesOf,
+		"SwaysAt": impl.SwaysAt, "IsSteady": impl.IsSteady, "StepShip": impl.StepShip, "RunShip": impl.RunShip,
+		"TraceShip": impl.TraceShip, "MirrorShip": impl.MirrorShip, "TurnIn": impl.TurnIn, "TurnOut": impl.TurnOut,
+		"CrossingsOf": impl.CrossingsOf, "ClosestPass": impl.ClosestPass, "PartingOf": impl.PartingOf, "ReachMap": impl.ReachMap,
 	}
 }
 
@@ -149,7 +158,18 @@ func oddValues() map[reflect.Type][]reflect.Value {
 	addValues(odd, [][]int64{nil, {}, {0}, {-3, 2, 2}, oddIntegers(), {impl.MaxValue, -impl.MaxValue}, repeated(int64(7), 64), repeated(int64(7), 65)})
 	addValues(odd, oddBodies())
 	addValues(odd, oddOrbits())
+	addValues(odd, oddShips())
 	return odd
+}
+
+// oddShips has few that are none.
+func oddShips() []impl.Ship {
+	nan, most := number(nanBits), number(mostBits)
+	list := []impl.Ship{shipOf(nan, nan, nan, nan), shipOf(0, number(infBits), 1, 1), shipOf(1, 1, 0, number(lessInf)), shipOf(most, -most, most, most)}
+	for _, c := range scenes() {
+		list = append(list, c.ship)
+	}
+	return list
 }
 
 // oddOrbits has few that are none.
