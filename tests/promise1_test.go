@@ -15,7 +15,7 @@ import (
 
 // landed has the files of the chapters whose promises have landed.
 func landed() []string {
-	return []string{"l01_numbers.go", "l02_bodies.go", "l03_orbits.go", "l04_frames.go"}
+	return []string{"l01_numbers.go", "l02_bodies.go", "l03_orbits.go", "l04_frames.go", "l05_transfers.go"}
 }
 
 // functions has each function of these files with its name.
@@ -61,6 +61,13 @@ func functions() map[string]any {
 		"SwaysAt": impl.SwaysAt, "IsSteady": impl.IsSteady, "StepShip": impl.StepShip, "RunShip": impl.RunShip,
 		"TraceShip": impl.TraceShip, "MirrorShip": impl.MirrorShip, "TurnIn": impl.TurnIn, "TurnOut": impl.TurnOut,
 		"CrossingsOf": impl.CrossingsOf, "ClosestPass": impl.ClosestPass, "PartingOf": impl.PartingOf, "ReachMap": impl.ReachMap,
+
+		"CircleSpeed": impl.CircleSpeed, "EscapeSpeed": impl.EscapeSpeed, "TwoBurns": impl.TwoBurns, "ThreeBurns": impl.ThreeBurns,
+		"BestBy": impl.BestBy, "PhaseOrbit": impl.PhaseOrbit, "LeadOf": impl.LeadOf, "WindowOf": impl.WindowOf,
+		"TiltBurn": impl.TiltBurn, "MixedBurn": impl.MixedBurn, "ArcTime": impl.ArcTime, "LeastArc": impl.LeastArc,
+		"ArcFor": impl.ArcFor, "ArcSpeeds": impl.ArcSpeeds, "FlybyTurn": impl.FlybyTurn, "FlybySpeed": impl.FlybySpeed,
+		"NearestFor": impl.NearestFor, "AimOf": impl.AimOf, "ValidStage": impl.ValidStage, "BurnOf": impl.BurnOf,
+		"FuelFor": impl.FuelFor, "StagesChange": impl.StagesChange, "BurnTime": impl.BurnTime, "AfterBurn": impl.AfterBurn,
 	}
 }
 
@@ -159,7 +166,25 @@ func oddValues() map[reflect.Type][]reflect.Value {
 	addValues(odd, oddBodies())
 	addValues(odd, oddOrbits())
 	addValues(odd, oddShips())
+	addValues(odd, []bool{false, true})
+	addValues(odd, oddStages())
+	addValues(odd, oddLists())
 	return odd
+}
+
+// oddStages has few that are none.
+func oddStages() []impl.Stage {
+	nan, less, most := number(nanBits), number(minusZero), number(mostBits)
+	return []impl.Stage{{}, stageOf(nan, nan, nan), stageOf(less, 1, 2), stageOf(1, 2, 3), stageOf(1, most, most), stageOf(0, number(leastBits), number(subnormal)), stageOf(2, 1, 1)}
+}
+
+// oddLists has lists of stages, few of them with one that is none.
+func oddLists() [][]impl.Stage {
+	list := [][]impl.Stage{nil, {}, oddStages(), repeated(stageOf(1, 2, 3), impl.MaxStages), repeated(stageOf(1, 2, 3), impl.MaxStages+1), oddStages()[2:6]}
+	for _, s := range oddStages() {
+		list = append(list, []impl.Stage{s}, []impl.Stage{s, stageOf(0.5, 8, 1)})
+	}
+	return list
 }
 
 // oddShips has few that are none.
