@@ -15,7 +15,7 @@ import (
 
 // landed has the files of the chapters whose promises have landed.
 func landed() []string {
-	return []string{"l01_numbers.go", "l02_bodies.go", "l03_orbits.go", "l04_frames.go", "l05_transfers.go"}
+	return []string{"l01_numbers.go", "l02_bodies.go", "l03_orbits.go", "l04_frames.go", "l05_transfers.go", "l06_tracks.go"}
 }
 
 // functions has each function of these files with its name.
@@ -68,6 +68,14 @@ func functions() map[string]any {
 		"ArcFor": impl.ArcFor, "ArcSpeeds": impl.ArcSpeeds, "FlybyTurn": impl.FlybyTurn, "FlybySpeed": impl.FlybySpeed,
 		"NearestFor": impl.NearestFor, "AimOf": impl.AimOf, "ValidStage": impl.ValidStage, "BurnOf": impl.BurnOf,
 		"FuelFor": impl.FuelFor, "StagesChange": impl.StagesChange, "BurnTime": impl.BurnTime, "AfterBurn": impl.AfterBurn,
+
+		"ValidBall": impl.ValidBall, "SameBall": impl.SameBall, "ValidMark": impl.ValidMark, "SameMark": impl.SameMark,
+		"WrapTurn": impl.WrapTurn, "PlaceOf": impl.PlaceOf, "MarkOf": impl.MarkOf, "ArcBetween": impl.ArcBetween,
+		"RiseAt": impl.RiseAt, "HorizonOf": impl.HorizonOf, "TrackOf": impl.TrackOf, "SeenFrom": impl.SeenFrom,
+		"RisesIn": impl.RisesIn, "SetsIn": impl.SetsIn, "LongestPass": impl.LongestPass, "InShadow": impl.InShadow,
+		"ShadowShare": impl.ShadowShare, "CoverOf": impl.CoverOf, "CoverShared": impl.CoverShared, "CoverShare": impl.CoverShare,
+		"DriftsOf": impl.DriftsOf, "DriftOrbit": impl.DriftOrbit, "StillLong": impl.StillLong, "ThinAt": impl.ThinAt,
+		"SinkLong": impl.SinkLong, "SinkRun": impl.SinkRun,
 	}
 }
 
@@ -169,7 +177,38 @@ func oddValues() map[reflect.Type][]reflect.Value {
 	addValues(odd, []bool{false, true})
 	addValues(odd, oddStages())
 	addValues(odd, oddLists())
+	addValues(odd, oddBalls())
+	addValues(odd, oddMarks())
+	addValues(odd, oddSights())
 	return odd
+}
+
+// oddBalls has few that are none.
+func oddBalls() []impl.Ball {
+	nan, most := number(nanBits), number(mostBits)
+	list := append(ordinaryBalls(), impl.Ball{}, ballOf(nan, nan, nan, nan), ballOf(1, 1, number(infBits), 0), ballOf(-1, most, most, -most))
+	for _, c := range views() {
+		list = append(list, c.ball)
+	}
+	return list
+}
+
+// oddMarks has few that are none.
+func oddMarks() []impl.Mark {
+	nan, most := number(nanBits), number(mostBits)
+	list := []impl.Mark{markOf(nan, nan, nan), markOf(0, 0.5, 0), markOf(-most, most, most), markOf(0, 0, number(lessInf))}
+	for _, c := range views() {
+		list = append(list, c.mark, c.other)
+	}
+	return list
+}
+
+// oddSights has lists of what is seen, or covered, and what is not.
+func oddSights() [][]bool {
+	return append(longLists()[10:],
+		nil, []bool{}, []bool{true}, []bool{false}, []bool{false, true, true, false}, []bool{true, false, false, true, true, false, true},
+		make([]bool, 7*7), make([]bool, impl.MaxMarks+1), repeated(true, 16*16), repeated(true, 16*16+1),
+	)
 }
 
 // oddStages has few that are none.
