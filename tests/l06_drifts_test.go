@@ -241,6 +241,19 @@ func TestCirclesSinkAndNeverRise(t *testing.T) {
 	want(t, "steps that sink", sinks > 200, true)
 }
 
+// Below the ground, nothing sinks any more, not even for no steps; a run that
+// comes there on its way succeeds.
+func TestSinkRunsFromBelowTheGround(t *testing.T) {
+	b := ballOf(4, 1, 0, 0)
+	for _, long := range []float32{1, number(oneBits - 1), 0.5, 0, number(minusZero), -7, -number(mostBits)} {
+		for _, steps := range []int64{0, 1, 5, impl.MaxMarks} {
+			want(t, fmt.Sprint("from ", long, ", steps ", steps), runTold(impl.SinkRun(b, long, 0.5, 2, 1, 1, steps)), "fail")
+			want(t, fmt.Sprint("without air, from ", long, ", steps ", steps), runTold(impl.SinkRun(b, long, 0, 0, 1, 0, steps)), "fail")
+		}
+	}
+	want(t, "a run that comes there", runTold(impl.SinkRun(b, 4, 0.5, 2, 1e30, 4, impl.MaxMarks)), "c1400000 true")
+}
+
 func TestSinkRun(t *testing.T) {
 	b, above := ballOf(4, 1, 0, 0), number(oneBits+1)
 	want(t, "at once to the ground", runTold(impl.SinkRun(b, 4, 0.5, 2, 1e30, 0.75, 9)), "3f800000 true")
@@ -250,10 +263,7 @@ func TestSinkRun(t *testing.T) {
 	want(t, "in the last step", runTold(impl.SinkRun(b, 4, 0.25, 2, 1e30, 1, 2)), "40000000,3f15f61a true")
 	want(t, "not at all", runTold(impl.SinkRun(b, 4, 0, 2, 1e30, 1, 3)), "40800000,40800000,40800000 false")
 	want(t, "just above the ground", runTold(impl.SinkRun(b, above, 0, 2, 1, 1, 2)), "3f800001,3f800001 false")
-	for _, long := range []float32{1, number(oneBits - 1), 0.5, 0, number(minusZero), -7, -number(mostBits)} {
-		want(t, fmt.Sprint("not above the ground: ", long), runTold(impl.SinkRun(b, long, 0.5, 2, 1, 1, 5)), " false")
-	}
-	for _, long := range []float32{1, 4, 1e30} {
+	for _, long := range []float32{above, 4, 1e30} {
 		want(t, fmt.Sprint("no steps, long ", long), runTold(impl.SinkRun(b, long, 0.5, 2, 1, 1, 0)), " false")
 	}
 	list, low, ok := impl.SinkRun(b, 4, 0, 2, 1, 1, impl.MaxMarks)

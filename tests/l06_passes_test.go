@@ -256,7 +256,6 @@ func TestSuns(t *testing.T) {
 	}
 	want(t, "the share of a sun that is 0", numberTold(impl.ShadowShare(b, impl.Orbit{Long: 2}, vectorOf(0, 0, 0), 4)), "fail")
 	want(t, "the least square", darkTold(impl.InShadow(b, vectorOf(0, 0x1p-74, 0), vectorOf(0, -2, 0))), "true")
-	want(t, "a sun whose size is not finite", darkTold(impl.InShadow(b, vectorOf(1e25, 0, 0), vectorOf(-2, 0, 0))), "false")
 	// All ways to the sun, with a place on the other side and one across.
 	for _, x := range []float32{-3, -1, 0, 0.5, 4} {
 		for _, y := range []float32{-2, 0, 1} {
@@ -272,6 +271,27 @@ func TestSuns(t *testing.T) {
 				want(t, fmt.Sprint("beyond, ", sun), darkTold(impl.InShadow(b, sun, impl.AddVectors(beyond, impl.ScaleVector(sun, -2)))), "false")
 				want(t, fmt.Sprint("in front, ", sun), darkTold(impl.InShadow(b, sun, impl.AddVectors(within, impl.ScaleVector(sun, 2)))), "false")
 			}
+		}
+	}
+}
+
+// A sun whose size is not finite fails wherever the place is, though it is
+// scaled to 0, and nothing else tells it.
+func TestSunsThatAreTooFarAway(t *testing.T) {
+	b, most := ballOf(1, 1, 0, 0), number(mostBits)
+	far, beyond := number(bitsOf(0x1p64)-1), float32(0x1p64)
+	want(t, "the farthest sun", darkTold(impl.InShadow(b, vectorOf(far, 0, 0), vectorOf(-2, 0, 0))), "true")
+	want(t, "the farthest sun, in front", darkTold(impl.InShadow(b, vectorOf(far, 0, 0), vectorOf(2, 0, 0))), "false")
+	want(t, "its share", numberTold(impl.ShadowShare(ballOf(1, 1, 0, 0), impl.Orbit{Long: 2}, vectorOf(far, 0, 0), 4)), "3e800000")
+	for _, sun := range []impl.Vector{
+		vectorOf(beyond, 0, 0), vectorOf(0, -beyond, 0), vectorOf(0, 0, beyond), vectorOf(0x1p63, -0x1p63, 0x1.8p63),
+		vectorOf(1e25, 0, 0), vectorOf(1, -1e30, 0), vectorOf(most, -most, most),
+	} {
+		for _, at := range []impl.Vector{vectorOf(-2, 0, 0), vectorOf(2, 0, 0), vectorOf(0, -2, 0), vectorOf(0, 2, 0.5), vectorOf(0, 0, 0)} {
+			want(t, fmt.Sprint("the sun ", sun, ", at ", at), darkTold(impl.InShadow(b, sun, at)), "fail")
+		}
+		for _, count := range []int64{1, 4, impl.MaxPlaces} {
+			want(t, fmt.Sprint("the share of the sun ", sun), numberTold(impl.ShadowShare(b, impl.Orbit{Long: 2}, sun, count)), "fail")
 		}
 	}
 }

@@ -258,13 +258,13 @@ func TestTablesOfShadows(t *testing.T) {
 	wantOfRows(t, "InShadow", passings(), func(c passing) string {
 		return darkTold(impl.InShadow(c.ball, c.sun, c.at))
 	},
-		"true", "true", "true", "true", "true", "true", "true", "fail", "false", "true", "fail", "fail", "false", "fail", "false",
+		"true", "true", "true", "true", "true", "true", "true", "fail", "false", "true", "fail", "fail", "fail", "fail", "false",
 	)
 	wantOfRows(t, "ShadowShare", passings(), func(c passing) string {
 		return numberTold(impl.ShadowShare(c.ball, c.orbit, c.sun, 13))
 	},
 		"3e1d89d9", "3d9d89d9", "3e1d89d9", "3d9d89d9", "3e9d89d9", "3d9d89d9", "fail", "fail", "3e1d89d9", "3e1d89d9", "fail", "fail",
-		"00000000", "fail", "3d9d89d9",
+		"fail", "fail", "3d9d89d9",
 	)
 }
 
@@ -324,7 +324,7 @@ func TestTablesOfSinking(t *testing.T) {
 		return runTold(impl.SinkRun(c.ball, c.long, c.drag, c.base, c.scale, c.tick, c.steps))
 	},
 		"40800000,40800000,40800000 false", "3ffb0169,3ff5dcfa,3ff090b0,3feb1a66 false", "3fa83a9c,3f8d6fea,3f5e4da0 true", "bf5413cc true",
-		"3f800000 true", "c1d00000 true", "45cb7944,45ca57f1,45c482c6 true", "4724b400,4724b400 false", " false", " false", " false", " false",
+		"3f800000 true", "c1d00000 true", "45cb7944,45ca57f1,45c482c6 true", "4724b400,4724b400 false", "fail", "fail", "fail", " false",
 		"40000000,40000000 false", "fail", "fail", "3f800001,3f800001,3f800001 false", "00800000,00800000 false", "fail",
 		"40400000,40400000,40400000 false",
 	)
