@@ -137,7 +137,7 @@ func TestWrappedTurnsAreParts(t *testing.T) {
 	}
 }
 
-// call has a function of chapter 6, and arguments with which it succeeds.
+// call has a function of chapter 6 or 7, and arguments with which it succeeds.
 type call struct {
 	name string
 	f    any
@@ -145,7 +145,7 @@ type call struct {
 }
 
 // wantFailingTypes puts what is not valid in place of each argument that is a
-// ball, a mark, an orbit, a vector or a number.
+// ball, a mark, an orbit, a vector, a look, looks, an entry, entries or a number.
 func (c call) wantFailingTypes(t *testing.T) {
 	t.Helper()
 	for place, x := range c.list {
@@ -158,6 +158,14 @@ func (c call) wantFailingTypes(t *testing.T) {
 			wantFailing(t, c.name, c.f, c.list, place, wrongOrbits())
 		case impl.Vector:
 			wantFailing(t, c.name, c.f, c.list, place, wrongVectors())
+		case impl.Look:
+			wantFailing(t, c.name, c.f, c.list, place, wrongLooks())
+		case []impl.Look:
+			wantFailing(t, c.name, c.f, c.list, place, wrongLookLists())
+		case impl.Entry:
+			wantFailing(t, c.name, c.f, c.list, place, wrongEntries())
+		case []impl.Entry:
+			wantFailing(t, c.name, c.f, c.list, place, wrongEntryLists())
 		case float32:
 			wantFailing(t, c.name, c.f, c.list, place, wrongNumbers())
 		}

@@ -109,22 +109,29 @@ func TestWorkersFailTogether(t *testing.T) {
 	}
 }
 
-func TestManyCoversAtTheSameTime(t *testing.T) {
-	at := vectorOf(1.5, -1, 0.7)
-	told := seenTold(impl.CoverOf(aBall(), at, 0.7, 0.01, 13, 11))
+// wantAtTheSameTime wants many calls that run at the same time to tell the same.
+func wantAtTheSameTime(t *testing.T, told string, tell func(i int) string) {
+	t.Helper()
 	results := make([]string, 200)
 	var group sync.WaitGroup
 	for i := range results {
 		group.Add(1)
 		go func() {
 			defer group.Done()
-			results[i] = seenTold(impl.CoverShared(aBall(), at, 0.7, 0.01, 13, 11, int64(i%impl.MaxCrew+1)))
+			results[i] = tell(i)
 		}()
 	}
 	group.Wait()
 	for i, result := range results {
 		want(t, fmt.Sprint("the call ", i), result, told)
 	}
+}
+
+func TestManyCoversAtTheSameTime(t *testing.T) {
+	at := vectorOf(1.5, -1, 0.7)
+	wantAtTheSameTime(t, seenTold(impl.CoverOf(aBall(), at, 0.7, 0.01, 13, 11)), func(i int) string {
+		return seenTold(impl.CoverShared(aBall(), at, 0.7, 0.01, 13, 11, int64(i%impl.MaxCrew+1)))
+	})
 }
 
 func TestCoverShare(t *testing.T) {

@@ -44,7 +44,7 @@ func travels() []travel {
 
 // placeAt returns where a ship is at the time k.
 func (c travel) placeAt(k int) (impl.Vector, float32) {
-	time := c.from + float32(k)*c.step
+	time := c.from + float32(float32(k)*c.step)
 	later, _ := impl.LaterOrbit(c.orbit, c.ball.Mass, time)
 	at, _, _ := impl.StateOf(later, c.ball.Mass)
 	return at, time

@@ -15,7 +15,7 @@ import (
 
 // landed has the files of the chapters whose promises have landed.
 func landed() []string {
-	return []string{"l01_numbers.go", "l02_bodies.go", "l03_orbits.go", "l04_frames.go", "l05_transfers.go", "l06_tracks.go"}
+	return []string{"l01_numbers.go", "l02_bodies.go", "l03_orbits.go", "l04_frames.go", "l05_transfers.go", "l06_tracks.go", "l07_fits.go"}
 }
 
 // functions has each function of these files with its name.
@@ -76,6 +76,13 @@ func functions() map[string]any {
 		"ShadowShare": impl.ShadowShare, "CoverOf": impl.CoverOf, "CoverShared": impl.CoverShared, "CoverShare": impl.CoverShare,
 		"DriftsOf": impl.DriftsOf, "DriftOrbit": impl.DriftOrbit, "StillLong": impl.StillLong, "ThinAt": impl.ThinAt,
 		"SinkLong": impl.SinkLong, "SinkRun": impl.SinkRun,
+
+		"AreLooks": impl.AreLooks, "SameLooks": impl.SameLooks, "LookAt": impl.LookAt, "NoisyLooks": impl.NoisyLooks,
+		"MissOf": impl.MissOf, "SquareOfMisses": impl.SquareOfMisses, "WorstLook": impl.WorstLook, "DropLooks": impl.DropLooks,
+		"WeighLooks": impl.WeighLooks, "SolveSquare": impl.SolveSquare, "SlopesOfLook": impl.SlopesOfLook, "FitStep": impl.FitStep,
+		"FitOrbit": impl.FitOrbit, "ValidEntry": impl.ValidEntry, "SameEntries": impl.SameEntries, "AreEntries": impl.AreEntries,
+		"PutEntry": impl.PutEntry, "DropEntry": impl.DropEntry, "FindEntry": impl.FindEntry, "StoreEntry": impl.StoreEntry,
+		"LoadEntry": impl.LoadEntry, "StoreEntries": impl.StoreEntries, "RecoverEntries": impl.RecoverEntries,
 	}
 }
 
@@ -154,6 +161,7 @@ func oddTexts() []string {
 		"none", "a", "moon", "abcdefgh", "abcdefghi", "7", "-12", "1,2", "-0", "1000000000000000", "7fc00000", "00000001,80000000",
 		"3f800000,00000000,c0000000", "3f80000000000000", "7fc00000ff800000,0000000080000000", strings.Repeat(",", 300),
 		strings.Repeat("3f800000,", 255) + "3f800000", strings.Repeat("3f800000,", 256) + "3f800000", strings.Repeat("1,", 64) + "1",
+		storedEntry(anEntry()), storedEntries(catalogOf(impl.MaxEntries + 1)), storedEntry(anEntry())[:30], "ORB1\xff", storedEntries(wrongEntries()[:9]),
 	}
 	return append(append(list, noNumbers()...), noDecimals()...)
 }
@@ -168,7 +176,7 @@ func oddValues() map[reflect.Type][]reflect.Value {
 	addValues(odd, oddVectors())
 	addValues(odd, oddIntegers())
 	addValues(odd, oddTexts())
-	addValues(odd, [][]float32{nil, {}, {number(minusZero)}, {1, 2, 3}, oddNumbers(), repeated(float32(0.1), 256), repeated(float32(1), 257)})
+	addValues(odd, [][]float32{nil, {}, {number(minusZero)}, {1, 2, 3}, oddNumbers(), repeated(float32(0.1), 256), repeated(float32(1), 257), {1, -2}, {3, 1, 1, 3}, {0, 2, 1, 3, 0, 1, 1, 1, 0}})
 	addValues(odd, [][]complex64{nil, {}, {complex(1, number(minusZero))}, {1, 2, 3}, oddComplex(), repeated(complex64(complex(0.1, -3)), 256), repeated(complex64(1), 257)})
 	addValues(odd, [][]int64{nil, {}, {0}, {-3, 2, 2}, oddIntegers(), {impl.MaxValue, -impl.MaxValue}, repeated(int64(7), 64), repeated(int64(7), 65)})
 	addValues(odd, oddBodies())
@@ -180,7 +188,26 @@ func oddValues() map[reflect.Type][]reflect.Value {
 	addValues(odd, oddBalls())
 	addValues(odd, oddMarks())
 	addValues(odd, oddSights())
+	for _, list := range oddLooks() {
+		addValues(odd, list)
+	}
+	addValues(odd, oddLooks())
+	addValues(odd, append(wrongEntries()[:20], anEntry(), entryOf("a", 1, aBranch()), entryOf("zzzzzzzz", number(leastBits), impl.Orbit{Long: 1})))
+	addValues(odd, append(wrongEntryLists()[:20], nil, []impl.Entry{}, namedList("moon"), namedList("a", "moon", "z"), catalogOf(7), catalogOf(impl.MaxEntries)))
 	return odd
+}
+
+// oddLooks has few lists with looks that are none.
+func oddLooks() [][]impl.Look {
+	nan, less, most := number(nanBits), number(minusZero), number(mostBits)
+	list := [][]impl.Look{
+		nil, {}, {{}, lookOf(nan, nan, nan, nan, nan)}, {lookOf(1, 2, 3, 4, -1)}, {lookOf(less, less, less, less, less)}, {lookOf(0, most, -most, most, 0), aLook()},
+		repeated(aLook(), impl.MaxLooks), repeated(aLook(), impl.MaxLooks+1),
+	}
+	for _, c := range watchings()[:6] {
+		list = append(list, c.looks)
+	}
+	return list
 }
 
 // oddBalls has few that are none.
