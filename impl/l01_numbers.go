@@ -24,6 +24,7 @@ const (
 	digitsOfBits = 8
 	maxLetters   = 8
 	emptyText    = "none"
+	comma        = ","
 )
 
 // Vector has three numbers.
@@ -433,20 +434,29 @@ func oppositeVector(v Vector) Vector { return Vector{X: -v.X, Y: -v.Y, Z: -v.Z} 
 
 // VectorText returns the text of a vector.
 func VectorText(v Vector) string {
-	return joinTexts([]float32{v.X, v.Y, v.Z}, numberText)
+	return joinTexts([]float32{v.X, v.Y, v.Z}, comma, numberText)
 }
 
 // ReadVector returns the vector with the given text.
 func ReadVector(s string) (Vector, bool) {
-	list, ok := ReadNumbers(s)
-	if !ok || len(list) != 3 {
+	list, ok := readSome(s, 3)
+	if !ok {
 		return Vector{}, false
 	}
 	return Vector{X: list[0], Y: list[1], Z: list[2]}, true
 }
 
-// joinTexts returns the texts of all values with commas between them.
-func joinTexts[T any](list []T, textOf func(T) string) string {
+// readSome fails for texts of more or less than the told count of numbers.
+func readSome(s string, count int) ([]float32, bool) {
+	list, ok := ReadNumbers(s)
+	if !ok || len(list) != count {
+		return nil, false
+	}
+	return list, true
+}
+
+// joinTexts returns the texts of all values with a separator between them.
+func joinTexts[T any](list []T, separator string, textOf func(T) string) string {
 	if len(list) == 0 {
 		return emptyText
 	}
@@ -454,20 +464,20 @@ func joinTexts[T any](list []T, textOf func(T) string) string {
 	for i, value := range list {
 		parts[i] = textOf(value)
 	}
-	return strings.Join(parts, ",")
+	return strings.Join(parts, separator)
 }
 
 // splitText returns the values whose joinTexts is s, at most limit ones.
-func splitText[T any](s string, limit int, read func(string) (T, bool)) ([]T, bool) {
+func splitText[T any](s, separator string, limit int, read func(string) (T, bool)) ([]T, bool) {
 	if s == emptyText {
 		return nil, true
 	}
-	count := strings.Count(s, ",") + 1
+	count := strings.Count(s, separator) + 1
 	if count > limit {
 		return nil, false
 	}
 	list := make([]T, 0, count)
-	for _, part := range strings.Split(s, ",") {
+	for _, part := range strings.Split(s, separator) {
 		value, ok := read(part)
 		if !ok {
 			return nil, false
@@ -482,11 +492,11 @@ func NumbersText(list []float32) (string, bool) {
 	if len(list) > MaxNumbers {
 		return "", false
 	}
-	return joinTexts(list, numberText), true
+	return joinTexts(list, comma, numberText), true
 }
 
 // ReadNumbers returns the numbers with the given text.
-func ReadNumbers(s string) ([]float32, bool) { return splitText(s, MaxNumbers, readNumber) }
+func ReadNumbers(s string) ([]float32, bool) { return splitText(s, comma, MaxNumbers, readNumber) }
 
 func numberText(x float32) string {
 	digits := strconv.FormatInt(BitsOf(x), 16)
@@ -512,11 +522,11 @@ func ComplexText(list []complex64) (string, bool) {
 	if len(list) > MaxNumbers {
 		return "", false
 	}
-	return joinTexts(list, complexText), true
+	return joinTexts(list, comma, complexText), true
 }
 
 // ReadComplex returns the complex numbers with the given text.
-func ReadComplex(s string) ([]complex64, bool) { return splitText(s, MaxNumbers, readComplex) }
+func ReadComplex(s string) ([]complex64, bool) { return splitText(s, comma, MaxNumbers, readComplex) }
 
 func complexText(x complex64) string { return numberText(real(x)) + numberText(imag(x)) }
 
@@ -572,11 +582,11 @@ func ListText(list []int64) (string, bool) {
 			return "", false
 		}
 	}
-	return joinTexts(list, Decimal), true
+	return joinTexts(list, comma, Decimal), true
 }
 
 // ReadList returns the list with the given text.
-func ReadList(s string) ([]int64, bool) { return splitText(s, MaxItems, ReadDecimal) }
+func ReadList(s string) ([]int64, bool) { return splitText(s, comma, MaxItems, ReadDecimal) }
 
 // CheckOf returns the check number of a text.
 func CheckOf(start int64, s string) (int64, bool) {

@@ -15,7 +15,7 @@ import (
 
 // landed has the files of the chapters whose promises have landed.
 func landed() []string {
-	return []string{"l01_numbers.go", "l02_bodies.go", "l03_orbits.go", "l04_frames.go", "l05_transfers.go", "l06_tracks.go", "l07_fits.go"}
+	return []string{"l01_numbers.go", "l02_bodies.go", "l03_orbits.go", "l04_frames.go", "l05_transfers.go", "l06_tracks.go", "l07_fits.go", "l08_desk.go"}
 }
 
 // functions has each function of these files with its name.
@@ -83,6 +83,12 @@ func functions() map[string]any {
 		"FitOrbit": impl.FitOrbit, "ValidEntry": impl.ValidEntry, "SameEntries": impl.SameEntries, "AreEntries": impl.AreEntries,
 		"PutEntry": impl.PutEntry, "DropEntry": impl.DropEntry, "FindEntry": impl.FindEntry, "StoreEntry": impl.StoreEntry,
 		"LoadEntry": impl.LoadEntry, "StoreEntries": impl.StoreEntries, "RecoverEntries": impl.RecoverEntries,
+
+		"ValidDesk": impl.ValidDesk, "SameDesk": impl.SameDesk, "NewDesk": impl.NewDesk, "BodiesText": impl.BodiesText,
+		"ReadBodies": impl.ReadBodies, "BallText": impl.BallText, "ReadBall": impl.ReadBall, "OrbitText": impl.OrbitText,
+		"ReadOrbit": impl.ReadOrbit, "ShipText": impl.ShipText, "ReadShip": impl.ReadShip, "EntriesText": impl.EntriesText,
+		"ReadEntries": impl.ReadEntries, "DeskCommand": impl.DeskCommand, "RunDesk": impl.RunDesk, "CountOutputs": impl.CountOutputs,
+		"JournalOf": impl.JournalOf, "RecoverJournal": impl.RecoverJournal, "RunJournal": impl.RunJournal,
 	}
 }
 
@@ -163,7 +169,25 @@ func oddTexts() []string {
 		strings.Repeat("3f800000,", 255) + "3f800000", strings.Repeat("3f800000,", 256) + "3f800000", strings.Repeat("1,", 64) + "1",
 		storedEntry(anEntry()), storedEntries(catalogOf(impl.MaxEntries + 1)), storedEntry(anEntry())[:30], "ORB1\xff", storedEntries(wrongEntries()[:9]),
 	}
-	return append(append(list, noNumbers()...), noDecimals()...)
+	return append(append(append(list, noNumbers()...), noDecimals()...), deskTexts()...)
+}
+
+// deskTexts has texts of parts of a desk, lines, scripts, outputs and journals.
+func deskTexts() []string {
+	list := []string{
+		"", "\n", "no\nwhat\n\nok\n", "mass\nshare\nkeep moo\nrun 00000000 3c23d70a 2", "share 3f800000", "keep Moon", "drop none", strings.Repeat("\n", impl.MaxScript), strings.Repeat("\n", impl.MaxScript+1),
+		bodiesText(systems()[1]), ballText(aBall()), orbitText(aBranch()), shipText(shipOf(1, 2, 3, 4)), plainEntries(namedList("a", "none")), journalOf(drawnLines(5, 40)), journalOf([]string{"mass", "share 3f000000"}) + "7",
+	}
+	for _, f := range forms() {
+		list = append(list, f.line())
+	}
+	return append(list, scriptOf(list[16:]), scriptOf(drawnLines(7, 60)))
+}
+
+// oddDesks has few that are none.
+func oddDesks() []impl.Desk {
+	all := wrongDesks()
+	return append(desks(), all[0], all[1], all[20], all[60], all[100], all[len(all)-1])
 }
 
 // oddValues has arguments of each type that a function takes.
@@ -193,6 +217,8 @@ func oddValues() map[reflect.Type][]reflect.Value {
 	}
 	addValues(odd, oddLooks())
 	addValues(odd, append(wrongEntries()[:20], anEntry(), entryOf("a", 1, aBranch()), entryOf("zzzzzzzz", number(leastBits), impl.Orbit{Long: 1})))
+	addValues(odd, oddDesks())
+	addValues(odd, append(someJournals(), []string{"\n"}, []string{"mass", "a\nb"}, make([]string, impl.MaxScript), repeated("mass", 1000), oddTexts()[:40]))
 	addValues(odd, append(wrongEntryLists()[:20], nil, []impl.Entry{}, namedList("moon"), namedList("a", "moon", "z"), catalogOf(7), catalogOf(impl.MaxEntries)))
 	return odd
 }
@@ -398,14 +424,26 @@ func copiesOf(list []reflect.Value, spare int, nan uint32) []reflect.Value {
 	return out
 }
 
+// extended returns a value whose slices are as long as they can be.
+func extended(v reflect.Value) reflect.Value {
+	switch v.Kind() {
+	case reflect.Slice:
+		return v.Slice(0, v.Cap())
+	case reflect.Struct:
+		out := reflect.New(v.Type()).Elem()
+		for i := range v.NumField() {
+			out.Field(i).Set(extended(v.Field(i)))
+		}
+		return out
+	}
+	return v
+}
+
 // wholeOf shows the unused capacity of slices as well.
 func wholeOf(list []reflect.Value) string {
 	out := make([]reflect.Value, len(list))
 	for i, v := range list {
-		out[i] = v
-		if v.Kind() == reflect.Slice {
-			out[i] = v.Slice(0, v.Cap())
-		}
+		out[i] = extended(v)
 	}
 	return textsOf(out)
 }
@@ -413,10 +451,15 @@ func wholeOf(list []reflect.Value) string {
 // overwrite puts zeros in place of all that the returned slices hold.
 func overwrite(results []reflect.Value) {
 	for _, v := range results {
-		if v.Kind() == reflect.Slice {
-			whole := v.Slice(0, v.Cap())
+		whole := extended(v)
+		switch whole.Kind() {
+		case reflect.Slice:
 			for i := range whole.Len() {
 				whole.Index(i).SetZero()
+			}
+		case reflect.Struct:
+			for i := range whole.NumField() {
+				overwrite([]reflect.Value{whole.Field(i)})
 			}
 		}
 	}
